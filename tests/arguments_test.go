@@ -22,10 +22,25 @@ var hostileNumbers = []int{
 
 var hostileLists = [][]int{
 	nil, {}, {0}, {1}, {-1}, {2}, {12}, {13}, {math.MinInt}, {math.MaxInt},
-	{0, 1}, {1, 0}, {0, 0}, {2, 3}, {3, 2}, {1, 2}, {math.MaxInt, math.MinInt}, {math.MaxInt, math.MaxInt}, {math.MinInt, math.MinInt},
+	{0, 1, 3, 2}, {6, 2, 3, 1, 0, 4, 5, 7}, {0, 1}, {1, 0}, {0, 0}, {2, 3}, {3, 2}, {1, 2}, {math.MaxInt, math.MinInt}, {math.MaxInt, math.MaxInt}, {math.MinInt, math.MinInt},
 	{0, 1, 2}, {2, 0, 1}, {2, 1, 0}, {0, 2, 1}, {0, 1, 1}, {0, 0, 0}, {1, 3, 5}, {9, 10, 11}, {0, 1, math.MaxInt},
 	upTo(12), downFrom(12), upTo(13), downFrom(13), repeated(0, 12), repeated(0, 13), repeated(2, 12), repeated(2, 13),
 	repeated(10, 6), repeated(10, 7), repeated(12, 12), upTo(1100), upTo(1101), repeated(2, 5000), repeated(math.MaxInt, 64),
+}
+
+// tableCall is a function that takes a list of lists, too.
+type tableCall struct {
+	name    string
+	numbers int
+	lists   int
+	run     func(numbers []int, lists [][]int, table [][]int) []any
+}
+
+var hostileTables = [][][]int{
+	nil, {}, {nil}, {nil, {}}, {{0}}, {{1}}, {{0}, {1}}, {{1}, {0}}, {{0}, {0}}, {{0}, {2}, {1}}, {{2}, {1}, {0}}, {{0}, {1, 0}, nil},
+	{{0, 0}, {0, 1}, {1, 1}, {1, 0}}, {{1, 0}, {0, 1}}, {{0, 1}, {0, 2}, {1, 2}}, {{0, 1, 2}, {1, 0, 2}, {1, 2, 0}}, {{-1}}, {{math.MinInt}, {math.MaxInt}},
+	{{0, 1}, {math.MaxInt, math.MinInt}}, {upTo(12), downFrom(12)}, {upTo(12), upTo(13)}, {repeated(0, 5000), nil}, make([][]int, 1100), make([][]int, 1101),
+	slices.Repeat([][]int{{0}}, 1100), slices.Repeat([][]int{{0, 1}}, 1101), slices.Repeat([][]int{{0}, {1}}, 2000),
 }
 
 // guarded returns copies of lists with spare capacity that is filled with x, and the whole memory of each.
@@ -141,6 +156,26 @@ func checkArguments(t *testing.T, c call) {
 			checkCall(t, c, numbers, lists)
 		})
 	})
+}
+
+// checkTableArguments runs a function with all hostile arguments, and looks whether lists are exchanged in the list of lists, or put behind it.
+func checkTableArguments(t *testing.T, c tableCall) {
+	for _, table := range hostileTables {
+		withTable := call{name: c.name, run: func(numbers []int, lists [][]int) []any {
+			memory := append(slices.Clone(lists[c.lists:]), []int{-7}, []int{-8})
+			before := cloneAll(memory)
+			results := c.run(numbers, lists[:c.lists], memory[:len(table)])
+			if !reflect.DeepEqual(memory, before) {
+				t.Errorf("%s %v %v: the list of lists or its spare capacity is changed", c.name, numbers, lists)
+			}
+			return results
+		}}
+		forChoices(hostileNumbers, c.numbers, nil, func(numbers []int) {
+			forChoices(hostileLists, c.lists, nil, func(lists [][]int) {
+				checkCall(t, withTable, numbers, append(lists, table...))
+			})
+		})
+	}
 }
 
 // forChoices calls do with each list of count values behind those that are chosen.

@@ -29,6 +29,9 @@ var badBases = [][]int{
 	repeated(2, 13), repeated(12, 12), repeated(10, 7), {10, 10, 10, 10, 10, 11}, repeated(2, 2000),
 }
 
+// badDigits are no digits for the bases 2 and 3.
+var badDigits = [][]int{nil, {0}, {0, 0, 0}, {2, 0}, {0, 3}, {-1, 0}, {0, -1}, {math.MinInt, 0}, {0, math.MaxInt}, {1, 3}}
+
 func TestDigitsInOrder(t *testing.T) {
 	for _, bases := range [][]int{nil, {2}, {12}, {2, 3}, {3, 2}, {5, 2, 12}, {12, 11, 10}, {2, 3, 2, 4, 3}, repeated(2, 12)} {
 		want := digitsInOrder(bases)
@@ -73,7 +76,7 @@ func TestInvalidBases(t *testing.T) {
 
 func TestInvalidDigits(t *testing.T) {
 	bases := []int{2, 3}
-	for _, digits := range [][]int{nil, {0}, {0, 0, 0}, {2, 0}, {0, 3}, {-1, 0}, {0, -1}, {math.MinInt, 0}, {0, math.MaxInt}, {1, 3}} {
+	for _, digits := range badDigits {
 		rank, ok := impl.RankOfDigits(bases, digits)
 		expectNoNumber(t, fmt.Sprint("RankOfDigits ", bases, digits), rank, ok)
 	}
