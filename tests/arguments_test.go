@@ -158,6 +158,14 @@ func checkArguments(t *testing.T, c call) {
 	})
 }
 
+// numbersBeside returns fewer numbers for a long list of lists, which takes much longer to check.
+func numbersBeside(table [][]int) []int {
+	if len(table) < 1000 {
+		return hostileNumbers
+	}
+	return []int{-1, 0, 1, 2, 12, 13}
+}
+
 // checkTableArguments runs a function with all hostile arguments, and looks whether lists are exchanged in the list of lists, or put behind it.
 func checkTableArguments(t *testing.T, c tableCall) {
 	for _, table := range hostileTables {
@@ -170,7 +178,7 @@ func checkTableArguments(t *testing.T, c tableCall) {
 			}
 			return results
 		}}
-		forChoices(hostileNumbers, c.numbers, nil, func(numbers []int) {
+		forChoices(numbersBeside(table), c.numbers, nil, func(numbers []int) {
 			forChoices(hostileLists, c.lists, nil, func(lists [][]int) {
 				checkCall(t, withTable, numbers, append(lists, table...))
 			})
