@@ -59,6 +59,22 @@ func listFrom[T any](first T, count int, next func(T) (T, bool)) []T {
 	return list
 }
 
+// areAllOnce reports whether each rank less than count is that of just one list.
+func areAllOnce(count int, lists [][]int, rankOf func([]int) (int, bool)) bool {
+	if len(lists) != count {
+		return false
+	}
+	met := make([]bool, count)
+	for _, list := range lists {
+		rank, ok := rankOf(list)
+		if !ok || met[rank] {
+			return false
+		}
+		met[rank] = true
+	}
+	return true
+}
+
 // copyOf is used instead of slices.Clone because a clone may have spare capacity.
 func copyOf(list []int) []int {
 	made := make([]int, len(list))
@@ -246,16 +262,21 @@ func IsPermutation(list []int) bool {
 	return true
 }
 
+// permutationRank requires a permutation.
+func permutationRank(list []int) int {
+	rank := 0
+	for i, x := range list {
+		rank = rank*(len(list)-i) + countRelated(list[i+1:], number(x), number.isLess)
+	}
+	return rank
+}
+
 // PermutationRank returns the rank of a permutation in lexicographic order.
 func PermutationRank(list []int) (int, bool) {
 	if !IsPermutation(list) {
 		return 0, false
 	}
-	rank := 0
-	for i, x := range list {
-		rank = rank*(len(list)-i) + countRelated(list[i+1:], number(x), number.isLess)
-	}
-	return rank, true
+	return permutationRank(list), true
 }
 
 // PermutationAt returns the permutation of n with the rank r.
