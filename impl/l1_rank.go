@@ -76,8 +76,8 @@ func areAllOnce(count int, lists [][]int, rankOf func([]int) (int, bool)) bool {
 }
 
 // copyOf is used instead of slices.Clone because a clone may have spare capacity.
-func copyOf(list []int) []int {
-	made := make([]int, len(list))
+func copyOf[T any](list []T) []T {
+	made := make([]T, len(list))
 	copy(made, list)
 	return made
 }
