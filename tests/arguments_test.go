@@ -166,23 +166,28 @@ func numbersBeside(table [][]int) []int {
 	return []int{-1, 0, 1, 2, 12, 13}
 }
 
-// checkTableArguments runs a function with all hostile arguments, and looks whether lists are exchanged in the list of lists, or put behind it.
+// checkTable runs a function with a list of lists and all hostile arguments beside it, and looks whether lists are exchanged in the list of lists, or put behind it.
+func checkTable(t *testing.T, c tableCall, table [][]int) {
+	withTable := call{name: c.name, run: func(numbers []int, lists [][]int) []any {
+		memory := append(slices.Clone(lists[c.lists:]), []int{-7}, []int{-8})
+		before := cloneAll(memory)
+		results := c.run(numbers, lists[:c.lists], memory[:len(table)])
+		if !reflect.DeepEqual(memory, before) {
+			t.Errorf("%s %v %v: the list of lists or its spare capacity is changed", c.name, numbers, lists)
+		}
+		return results
+	}}
+	forChoices(numbersBeside(table), c.numbers, nil, func(numbers []int) {
+		forChoices(hostileLists, c.lists, nil, func(lists [][]int) {
+			checkCall(t, withTable, numbers, append(lists, table...))
+		})
+	})
+}
+
+// checkTableArguments runs a function with all hostile arguments.
 func checkTableArguments(t *testing.T, c tableCall) {
 	for _, table := range hostileTables {
-		withTable := call{name: c.name, run: func(numbers []int, lists [][]int) []any {
-			memory := append(slices.Clone(lists[c.lists:]), []int{-7}, []int{-8})
-			before := cloneAll(memory)
-			results := c.run(numbers, lists[:c.lists], memory[:len(table)])
-			if !reflect.DeepEqual(memory, before) {
-				t.Errorf("%s %v %v: the list of lists or its spare capacity is changed", c.name, numbers, lists)
-			}
-			return results
-		}}
-		forChoices(numbersBeside(table), c.numbers, nil, func(numbers []int) {
-			forChoices(hostileLists, c.lists, nil, func(lists [][]int) {
-				checkCall(t, withTable, numbers, append(lists, table...))
-			})
-		})
+		checkTable(t, c, table)
 	}
 }
 
