@@ -201,3 +201,27 @@ func forChoices[T any](values []T, count int, chosen []T, do func([]T)) {
 		forChoices(values, count-1, append(slices.Clone(chosen), x), do)
 	}
 }
+
+// hasSpareCapacity looks at lists of lists, too.
+func hasSpareCapacity(results []any) bool {
+	isLonger := func(list []int) bool { return cap(list) > len(list) }
+	for _, result := range results {
+		if lists, ok := result.([][]int); ok && cap(lists) > len(lists) {
+			return true
+		}
+	}
+	return slices.ContainsFunc(listsIn(results), isLonger)
+}
+
+// checkResultsEnd looks whether nothing is handed out behind the end of a result.
+func checkResultsEnd(t *testing.T, calls []call, someNumbers []int, someLists [][]int) {
+	for _, c := range calls {
+		forChoices(someNumbers, c.numbers, nil, func(numbers []int) {
+			forChoices(someLists, c.lists, nil, func(lists [][]int) {
+				if hasSpareCapacity(c.run(numbers, lists)) {
+					t.Errorf("%s %v %v has a result with spare capacity", c.name, numbers, lists)
+				}
+			})
+		})
+	}
+}

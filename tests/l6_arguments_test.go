@@ -77,26 +77,6 @@ func TestShapeArguments(t *testing.T) {
 	})
 }
 
-// hasSpareCapacity looks at lists of lists, too.
-func hasSpareCapacity(results []any) bool {
-	isLonger := func(list []int) bool { return cap(list) > len(list) }
-	for _, result := range results {
-		if lists, ok := result.([][]int); ok && cap(lists) > len(lists) {
-			return true
-		}
-	}
-	return slices.ContainsFunc(listsIn(results), isLonger)
-}
-
-// TestResultsEnd looks whether nothing is handed out behind the end of a result.
-func TestResultsEnd(t *testing.T) {
-	for _, c := range shapeCalls {
-		forChoices([]int{0, 1, 2, 4, 5, 7, 12, 20}, c.numbers, nil, func(numbers []int) {
-			forChoices(shapeLists(), c.lists, nil, func(lists [][]int) {
-				if hasSpareCapacity(c.run(numbers, lists)) {
-					t.Errorf("%s %v %v has a result with spare capacity", c.name, numbers, lists)
-				}
-			})
-		})
-	}
+func TestShapeResultsEnd(t *testing.T) {
+	checkResultsEnd(t, shapeCalls, []int{0, 1, 2, 4, 5, 7, 12, 20}, shapeLists())
 }
